@@ -2,6 +2,7 @@ package graph
 
 import (
 	"manystrand/api"
+	"manystrand/equal"
 )
 
 // A copier copies the nodes that it comes to, in the order in which it first comes to them.
@@ -14,8 +15,8 @@ type copier struct {
 
 // least returns the least graph of a graph, which may have more nodes than a valid one.
 func least(g api.Graph) api.Graph {
-	equal := classesOf(g.Nodes)
-	return from(g.Root, &copier{from: g.Nodes, class: func(n int) int { return equal.of[n] }})
+	of, _ := equal.Classes(g.Nodes)
+	return from(g.Root, &copier{from: g.Nodes, class: func(n int) int { return of[n] }})
 }
 
 // part returns the least graph of a node of a least graph.

@@ -2,8 +2,6 @@ package graph
 
 import (
 	"iter"
-	"strconv"
-	"strings"
 
 	"manystrand/api"
 )
@@ -25,27 +23,6 @@ func (t table[K]) number(key K) (n int, isNew bool) {
 		t[key] = n
 	}
 	return n, !known
-}
-
-// A shape is what is seen of a node without going down.
-type shape struct {
-	kind, text string
-	n          int
-	feats      string
-}
-
-func shapeOf(n api.Node) shape {
-	s := shape{kind: n.Kind, text: n.Text, n: n.N}
-	if len(n.Feats) == 0 {
-		return s
-	}
-	// The length of an atom stands ahead of it: an atom may have any bytes.
-	var b strings.Builder
-	for _, f := range n.Feats {
-		b.WriteString(strconv.Itoa(f.N) + " " + strconv.Itoa(len(f.Text)) + " " + f.Text)
-	}
-	s.feats = b.String()
-	return s
 }
 
 // isPair reports whether a node is a record A|B.

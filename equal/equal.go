@@ -1,11 +1,46 @@
-package graph
+// Package equal tells which nodes of a graph are equal, also of a graph that has too many nodes to be valid.
+package equal
 
 import (
 	"cmp"
 	"slices"
+	"strconv"
+	"strings"
 
 	"manystrand/api"
 )
+
+// Classes returns a number for each node: equal nodes have the same one. The numbers are 0, 1, .. in the
+// order of the first nodes that have them, and count is how many there are. All Kids must be numbers of
+// nodes.
+func Classes(nodes []api.Node) (of []int, count int) {
+	c := byShape(nodes)
+	into := make([][]edge, len(nodes))
+	for n := range nodes {
+		for at, kid := range nodes[n].Kids {
+			into[kid] = append(into[kid], edge{n, at})
+		}
+	}
+	// What a cut makes stands behind all others: the classes are their own queue.
+	for i := 0; i < len(c.begin); i++ {
+		c.divide(c.edgesInto(i, into))
+	}
+	return numbered(c.of)
+}
+
+// numbered gives keys the numbers 0, 1, .. in the order in which they first come.
+func numbered[K comparable](keys []K) (numbers []int, count int) {
+	known := map[K]int{}
+	for _, key := range keys {
+		n, is := known[key]
+		if !is {
+			n = len(known)
+			known[key] = n
+		}
+		numbers = append(numbers, n)
+	}
+	return numbers, len(known)
+}
 
 // Classes divide the nodes of a graph. They are cut into smaller ones until all nodes of each one are
 // equal (Hopcroft's way: of a class that was cut only the smaller part is looked at again).
@@ -21,36 +56,17 @@ type classes struct {
 // An edge goes down from a node by its Kid at a place.
 type edge struct{ from, at int }
 
-// classesOf returns the classes of equal nodes.
-func classesOf(nodes []api.Node) *classes {
-	c := byShape(nodes)
-	into := make([][]edge, len(nodes))
-	for n := range nodes {
-		for at, kid := range nodes[n].Kids {
-			into[kid] = append(into[kid], edge{n, at})
-		}
-	}
-	// What a cut makes stands behind all others: the classes are their own queue.
-	for i := 0; i < len(c.begin); i++ {
-		c.divide(c.edgesInto(i, into))
-	}
-	return c
-}
-
 // byShape returns the classes of nodes that look alike.
 func byShape(nodes []api.Node) *classes {
-	c := &classes{of: make([]int, len(nodes)), nodes: make([]int, len(nodes)), place: make([]int, len(nodes))}
-	shapes := table[shape]{}
-	for n := range nodes {
-		class, isNew := shapes.number(shapeOf(nodes[n]))
-		if isNew {
-			c.end = append(c.end, 0)
-		}
-		c.of[n] = class
+	shapes := make([]shape, len(nodes))
+	for i, n := range nodes {
+		shapes[i] = shapeOf(n)
+	}
+	of, count := numbered(shapes)
+	c := &classes{of, make([]int, len(nodes)), make([]int, len(nodes)), make([]int, count), make([]int, count), make([]int, count)}
+	for _, class := range of {
 		c.end[class]++
 	}
-	c.begin = make([]int, len(c.end))
-	c.marked = make([]int, len(c.end))
 	for i := 1; i < len(c.end); i++ {
 		c.end[i] += c.end[i-1]
 		c.begin[i] = c.end[i-1]
@@ -127,4 +143,25 @@ func (c *classes) cut(class int) {
 	c.begin = append(c.begin, begin)
 	c.end = append(c.end, end)
 	c.marked = append(c.marked, 0)
+}
+
+// A shape is what is seen of a node without going down.
+type shape struct {
+	kind, text string
+	n          int
+	feats      string
+}
+
+func shapeOf(n api.Node) shape {
+	s := shape{kind: n.Kind, text: n.Text, n: n.N}
+	if len(n.Feats) == 0 {
+		return s
+	}
+	// The length of an atom stands ahead of it: an atom may have any bytes.
+	var b strings.Builder
+	for _, f := range n.Feats {
+		b.WriteString(strconv.Itoa(f.N) + " " + strconv.Itoa(len(f.Text)) + " " + f.Text)
+	}
+	s.feats = b.String()
+	return s
 }
