@@ -1,4 +1,5 @@
-// Package equal tells which nodes of a graph are equal, also of a graph that has too many nodes to be valid.
+// Package equal tells which nodes of a graph are equal, and joins them, also of a graph that has too many
+// nodes to be valid.
 package equal
 
 import (

@@ -3,6 +3,7 @@ package equal_test
 import (
 	"fmt"
 	"math/rand"
+	"reflect"
 	"slices"
 	"testing"
 
@@ -104,6 +105,37 @@ func byPairs(nodes []api.Node) [][]bool {
 		}
 	}
 	return eq
+}
+
+// TestLeast: just the reached nodes, equal ones joined, in the order in which they are first come to.
+func TestLeast(t *testing.T) {
+	one := api.Node{Kind: "int", N: 1}
+	g := api.Graph{Root: 3, Nodes: []api.Node{one, {Kind: "var", N: 9}, pair(0, 2), pair(4, 5), pair(6, 0), pair(6, 7), one, pair(7, 3)}}
+	want := api.Graph{Nodes: []api.Node{pair(1, 3), pair(2, 2), one, pair(2, 4), pair(4, 0)}}
+	given := fmt.Sprint(g)
+	least := equal.Least(g)
+	if !reflect.DeepEqual(least, want) {
+		t.Errorf("Least: %v", least)
+	}
+	if part := equal.Part(least, 3); !reflect.DeepEqual(part, api.Graph{Nodes: []api.Node{pair(1, 2), one, pair(2, 3), pair(4, 0), pair(1, 1)}}) {
+		t.Errorf("Part: %v", part)
+	}
+	if part := equal.Part(least, 2); !reflect.DeepEqual(part, api.Graph{Nodes: []api.Node{one}}) {
+		t.Errorf("Part: %v", part)
+	}
+	least.Nodes[1].Feats[0], least.Nodes[1].Kids[0] = api.Feat{N: 9}, 9
+	if fmt.Sprint(g) != given {
+		t.Errorf("Least shares memory with its argument")
+	}
+}
+
+func TestBeside(t *testing.T) {
+	one := api.Node{Kind: "int", N: 1}
+	g := api.Graph{Root: 1, Nodes: []api.Node{one, pair(0, 1)}}
+	nodes, root := equal.Beside([]api.Node{one, one}, g)
+	if root != 3 || !reflect.DeepEqual(nodes, []api.Node{one, one, one, pair(2, 3)}) || !reflect.DeepEqual(g.Nodes[1], pair(0, 1)) {
+		t.Errorf("Beside: %v, %d, of %v", nodes, root, g)
+	}
 }
 
 // TestMany: as many nodes as there may be variables.

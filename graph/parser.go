@@ -6,6 +6,7 @@ import (
 	"strings"
 
 	"manystrand/api"
+	"manystrand/equal"
 	"manystrand/token"
 	"manystrand/tree"
 )
@@ -34,7 +35,7 @@ func Parse(text string) (api.Graph, api.Errno) {
 	if !ok {
 		return api.Graph{}, api.ErrForm
 	}
-	g = least(g)
+	g = equal.Least(g)
 	if len(g.Nodes) > api.MaxGraph {
 		return api.Graph{}, api.ErrLimit
 	}

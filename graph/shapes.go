@@ -2,8 +2,10 @@ package graph
 
 import (
 	"iter"
+	"slices"
 
 	"manystrand/api"
+	"manystrand/equal"
 )
 
 // The labels of records that are written in a way of their own.
@@ -63,24 +65,18 @@ func chain(g api.Graph, n int) (pairs []int, closed bool) {
 
 // listOf returns a graph of the list of some graphs, none of whose nodes are joined.
 func listOf(l []api.Graph) api.Graph {
-	var g api.Graph
-	at := len(l) + 1
-	for i, item := range l {
-		g.Nodes = append(g.Nodes, pair(at+item.Root, i+1))
-		at += len(item.Nodes)
+	var nodes []api.Node
+	var items []int
+	for _, g := range l {
+		var item int
+		nodes, item = equal.Beside(nodes, g)
+		items = append(items, item)
 	}
-	g.Nodes = append(g.Nodes, atom(nilLabel))
-	for _, item := range l {
-		begin := len(g.Nodes)
-		for _, n := range item.Nodes {
-			n.Kids = append([]int(nil), n.Kids...)
-			for i := range n.Kids {
-				n.Kids[i] += begin
-			}
-			g.Nodes = append(g.Nodes, n)
-		}
+	nodes = append(nodes, atom(nilLabel))
+	for _, item := range slices.Backward(items) {
+		nodes = append(nodes, pair(item, len(nodes)-1))
 	}
-	return g
+	return api.Graph{Root: len(nodes) - 1, Nodes: nodes}
 }
 
 // ofKind goes through the nodes of a kind, which may be changed, in the order of their numbers.

@@ -5,7 +5,6 @@ import (
 
 	"manystrand/api"
 	"manystrand/equal"
-	"manystrand/graph"
 )
 
 // Itself returns the variable itself: that at the end of a variable's chain.
@@ -77,14 +76,11 @@ func (s *Store) Graph(x int) (api.Graph, api.Errno) {
 	if err := s.check(x); err != api.OK {
 		return api.Graph{}, err
 	}
-	nodes := s.reached(x)
-	if len(nodes) > api.MaxGraph {
-		nodes = joined(nodes)
-	}
-	if len(nodes) > api.MaxGraph {
+	g := equal.Least(api.Graph{Nodes: s.reached(x)})
+	if len(g.Nodes) > api.MaxGraph {
 		return api.Graph{}, api.ErrLimit
 	}
-	return graph.Least(api.Graph{Nodes: nodes})
+	return g, api.OK
 }
 
 // reached returns the nodes of all variables that are reached from one, its own first.
@@ -106,17 +102,4 @@ func (s *Store) reached(x int) []api.Node {
 		nodes = append(nodes, n)
 	}
 	return nodes
-}
-
-// joined returns one node for all that are equal, the first one's first.
-func joined(nodes []api.Node) []api.Node {
-	of, count := equal.Classes(nodes)
-	l := make([]api.Node, count)
-	for i, n := range nodes {
-		for k, kid := range n.Kids {
-			n.Kids[k] = of[kid]
-		}
-		l[of[i]] = n
-	}
-	return l
 }
